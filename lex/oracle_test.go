@@ -37,7 +37,8 @@ var (
 	foreign   = regexp.MustCompile(`[^\t\n -~]`)
 	termWords = regexp.MustCompile(`^(?:return|and|or|not|x|lt|gt|le|ge|eq|ne|cmp|if|unless|elsif|else|while|until|for|do|eval|sub|map|grep|sort|my|our|local)$`)
 	blockPast = regexp.MustCompile(`(?:^|[;B)w]|(?:^|[;B])w:)$`)
-	subscript = regexp.MustCompile(`[v\]ES]$`)
+	enclosing = regexp.MustCompile(`[aS]$`)
+	subscript = regexp.MustCompile(`[v\]E]$`)
 )
 
 // drop takes bytes out of what is left.
@@ -278,7 +279,7 @@ func (r *reader) addSign(t *api.Token, apart bool) (string, bool) {
 		}
 	case "{":
 		t.Open = 3
-		if strings.HasSuffix(r.trace, "a") || !apart && subscript.MatchString(r.trace) {
+		if enclosing.MatchString(r.trace) || !apart && subscript.MatchString(r.trace) {
 			t.Open = 2
 		} else if blockPast.MatchString(r.trace) {
 			t.Open = 1

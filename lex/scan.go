@@ -241,12 +241,13 @@ func (p *scanner) isSubscript(direct bool) bool {
 	switch last.Text {
 	case "->", "$", "@":
 		return true
+	case "%", "&":
+		// Where a term was expected, it is a sign of a term, which blanks do not part from what it refers to.
+		return p.terms[len(p.terms)-1]
 	case "]":
 		return direct
 	case "}":
 		return direct && last.Open == subscript
-	case "%", "&":
-		return direct && p.terms[len(p.terms)-1]
 	}
 	return false
 }

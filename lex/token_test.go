@@ -89,7 +89,7 @@ func TestLongestSigns(t *testing.T) {
 // P3.1: what is expected behind a token, and what begins there.
 func TestExpected(t *testing.T) {
 	operators := []string{"1", "$x", "@x", "%x", "&x", "$_", "@_", "$1", "$@", "$&", "'a'", `"a"`, "/a/", "/a/i", "q(a)", "qq(a)", "qw(a)", "m(a)", "s(a)(b)", "s/a/b/g", "tr/a/b/", "tr/a/b/c", "<<E",
-		"(1)", "[1]", ")", "]", "$x{a}", "({b=>1}", "f({a})", "${a}", "1++", "1--", "$x++", "$x++--", "f", "print", "last", "next", "BEGIN", "END", "package", "push", "shift", "xx", "x1", "X", "If", "returns", "_", "a::or", "or::a", "not_", "q", "qq", "qw", "m", "s", "tr", "y"}
+		"(1)", "[1]", ")", "]", "$x{a}", "% {a}", "&\n{a}", "({b=>1}", "f({a})", "${a}", "1++", "1--", "$x++", "$x++--", "f", "print", "last", "next", "BEGIN", "END", "package", "push", "shift", "xx", "x1", "X", "If", "returns", "_", "a::or", "or::a", "not_", "q", "qq", "qw", "m", "s", "tr", "y"}
 	terms := []string{"", ";", "{1;}", "{;}", "}", "++", "--", "1 + ++", "1+ --", "1%", "1&", "%", "&", "if (1) {}", "sub {}", "${", "@{", "$x{", "f({", "(", "[", "a:", "1 ?", "1 ? 2 :", "$x->", "{"}
 	for _, w := range strings.Fields("return and or not x lt gt le ge eq ne cmp if unless elsif else while until for do eval sub map grep sort my our local") {
 		terms = append(terms, w, "1 "+w)
@@ -205,8 +205,8 @@ func TestSigils(t *testing.T) {
 	hold(t, [][2]string{
 		{"$$a", "$ v($a)"}, {"@$a", "@ v($a)"}, {"%$a", "% v($a)"}, {"&$a", "& v($a)"}, {"$$$a", "$ $ v($a)"}, {"@$$a", "@ $ v($a)"}, {"%$$a", "% $ v($a)"}, {"$$_", "$ v($_)"}, {"$$1", "$ v($1)"}, {"$$@", "$ v($@)"}, {"$$&", "$ v($&)"}, {"$$0", wrongAt(1)},
 		{"${a}", "$ {2 w(a) }2"}, {"@{a}", "@ {2 w(a) }2"}, {"%{a}", "% {2 w(a) }2"}, {"&{a}", "& {2 w(a) }2"}, {"$${a}", "$ $ {2 w(a) }2"}, {"@${a}", "@ $ {2 w(a) }2"}, {"%${a}", "% $ {2 w(a) }2"},
-		{"$ {", wrongAt(0)}, {"@ {", wrongAt(0)}, {"% {", "% {3"}, {"& {", "& {3"}, {"$ $a", wrongAt(0)}, {"@ $a", wrongAt(0)}, {"% $a", "% v($a)"}, {"& $a", "& v($a)"}, {"$@a", "v($@) w(a)"}, {"@@a", wrongAt(0)}, {"%@{a}", "% @ {2 w(a) }2"}, {"$%a", wrongAt(0)}, {"@%a", wrongAt(0)},
-		{"1%{a}", "n(1) % {3 w(a) }3"}, {"1&{a}", "n(1) & {3 w(a) }3"}, {"1%$a", "n(1) % v($a)"}, {"1${a}", wrongAt(1)}, {"1@{a}", wrongAt(1)},
+		{"$ {", wrongAt(0)}, {"@ {", wrongAt(0)}, {"% {", "% {2"}, {"& {", "& {2"}, {"%\n{a}", "% {2 w(a) }2"}, {"&\t{a}", "& {2 w(a) }2"}, {"% % {a}", "% % {2 w(a) }2"}, {"&& {a}", "&& {3 w(a) }3"}, {"$ $a", wrongAt(0)}, {"@ $a", wrongAt(0)}, {"% $a", "% v($a)"}, {"& $a", "& v($a)"}, {"$@a", "v($@) w(a)"}, {"@@a", wrongAt(0)}, {"%@{a}", "% @ {2 w(a) }2"}, {"$%a", wrongAt(0)}, {"@%a", wrongAt(0)},
+		{"1%{a}", "n(1) % {3 w(a) }3"}, {"1% {a}", "n(1) % {3 w(a) }3"}, {"1& {a}", "n(1) & {3 w(a) }3"}, {"1&{a}", "n(1) & {3 w(a) }3"}, {"1%$a", "n(1) % v($a)"}, {"1${a}", wrongAt(1)}, {"1@{a}", wrongAt(1)},
 		{"@{$x}{a}", "@ {2 v($x) }2 {2 w(a) }2"}, {"$#a", wrongAt(0)}, {"$[", wrongAt(0)}, {"@(", wrongAt(0)}, {"%(", "% ("},
 	})
 }
@@ -214,7 +214,7 @@ func TestSigils(t *testing.T) {
 // P3.1: comments, where a token could begin and where none could.
 func TestComments(t *testing.T) {
 	hold(t, [][2]string{
-		{"1 # a ' \" / $ {", "n(1)"}, {"#a\n1", "n(1)"}, {"1#a\n+#b\n2#", "n(1) + n(2)"}, {"$x#a\n{b}", "v($x) {3 w(b) }3"}, {"a#\n::b", "w(a) : : w(b)"}, {"##\n##\n1", "n(1)"}, {"# <<E\n1", "n(1)"}, {"m/a/#i\nb", "pat(a;) w(b)"}, {"q#a#\n(b)", "w(q) ( w(b) )"}, {"$x->#a\n{b}", "v($x) -> {2 w(b) }2"}, {"1<#a\n<E", "n(1) < < w(E)"}, {"%#a\na", "% w(a)"}, {"-#\n-1", "- - n(1)"},
+		{"1 # a ' \" / $ {", "n(1)"}, {"#a\n1", "n(1)"}, {"1#a\n+#b\n2#", "n(1) + n(2)"}, {"$x#a\n{b}", "v($x) {3 w(b) }3"}, {"a#\n::b", "w(a) : : w(b)"}, {"##\n##\n1", "n(1)"}, {"# <<E\n1", "n(1)"}, {"m/a/#i\nb", "pat(a;) w(b)"}, {"q#a#\n(b)", "w(q) ( w(b) )"}, {"$x->#a\n{b}", "v($x) -> {2 w(b) }2"}, {"1<#a\n<E", "n(1) < < w(E)"}, {"%#a\na", "% w(a)"}, {"% #a\n {b}", "% {2 w(b) }2"}, {"1&#a\n{b}", "n(1) & {3 w(b) }3"}, {"-#\n-1", "- - n(1)"},
 		{"'#'", "str(#)"}, {`"#"`, "inter(#)"}, {"/#/", "pat(#;)"}, {"q(#)", "str(#)"}, {"qw(a #b\nc)", "words(a #b c)"}, {"s/#/#/", "subst(#;#;)"}, {"tr(#)(#)", "trans(#;#;)"}, {"s(a)#\n(b)", wrongAt(0)}, {"s(a) #b\n(b)", wrongAt(0)}, {"tr(a)#\n(b)", wrongAt(0)}, {"$#\nx", wrongAt(0)}, {"<<E #'\n#\nE", "inter(#\n)"},
 	})
 }
