@@ -48,10 +48,13 @@ func isTight(t, u api.Token, term bool) bool {
 	switch {
 	case isSignOf(u, "{") && u.Open == subscript:
 		return true
+	case !term:
+		// Where an operator is expected, none of these is a sign of a term.
+		return false
 	case isSignOf(t, "$") || isSignOf(t, "@"):
 		return true
 	case isSignOf(t, "%") || isSignOf(t, "&"):
-		return term && (u.Kind == api.KVar || u.Kind == api.KSign) && strings.HasPrefix(u.Text, "$")
+		return (u.Kind == api.KVar || u.Kind == api.KSign) && strings.HasPrefix(u.Text, "$")
 	}
 	return false
 }

@@ -136,6 +136,54 @@ func TestJoinIsRefused(t *testing.T) {
 	}
 }
 
+// P3.2: no blank stands behind a `$` or `@` of a term; behind one where an operator is expected one stands, and makes it a wrong byte.
+func TestJoinBehindSigil(t *testing.T) {
+	word, subscript, x := api.Token{Kind: api.KWord, Text: "x"}, sign("{", 2), api.Token{Kind: api.KVar, Text: "$x"}
+	of := func(kind int, text string) api.Token { return api.Token{Kind: kind, Text: text} }
+	for name, before := range map[string][]api.Token{
+		"an empty word": {of(api.KWord, "")}, "a word": {of(api.KWord, "a")}, "q and a pattern": {of(api.KWord, "q"), of(api.KPat, "")},
+		"a number": {of(api.KNum, "1")}, "a number of no digits": {of(api.KNum, ";")}, "a variable": {x}, "a text": {of(api.KStr, "")}, "a text with interpolation": {of(api.KInter, "")},
+		"words": {of(api.KWords, "")}, "a pattern": {of(api.KPat, "")}, "a replacement": {of(api.KSubst, "")}, "a transliteration": {of(api.KTrans, "")},
+		"`)`": {sign(")", 0)}, "`]`": {sign("]", 0)}, "a `}` of a subscript": {x, sign("{", 2), sign("}", 2)}, "a `}` with Open 2": {sign("}", 2)}, "a `}` with Open 3": {sign("}", 3)}, "`1 ++`": {of(api.KNum, "1"), sign("++", 0)}, "`) --`": {sign(")", 0), sign("--", 0)},
+	} {
+		for _, sigil := range []string{"$", "@"} {
+			for _, behind := range []api.Token{word, x, sign("{", 1), of(api.KWord, "{"), sign("$", 0)} {
+				if s, e := lex.Join(slices.Concat(before, []api.Token{sign(sigil, 0), behind})); s != "" || e != api.ErrSyntax {
+					t.Errorf("Join of %s, a sign %s and %q: %q %d", name, sigil, behind.Text, s, e)
+				}
+			}
+		}
+	}
+	for name, before := range map[string][]api.Token{
+		"nothing": nil, "return": {of(api.KWord, "return")}, "`+`": {word, sign("+", 0)}, "`;`": {sign(";", 0)}, "`(`": {sign("(", 0)}, "a `}` of a block": {sign("}", 1)}, "`++`": {sign("++", 0)},
+	} {
+		for _, sigil := range []string{"$", "@"} {
+			behind := slices.Concat(before, []api.Token{sign(sigil, 0)})
+			if s, e := lex.Join(append(behind[:len(behind):len(behind)], word)); s != "" || e != api.ErrArg {
+				t.Errorf("Join of %s, a sign %s and x: %q %d", name, sigil, s, e)
+			}
+			if s, e := lex.Join(append(behind[:len(behind):len(behind)], x)); !strings.HasSuffix(s, sigil+"$x") || e != api.OK {
+				t.Errorf("Join of %s, a sign %s and $x: %q %d", name, sigil, s, e)
+			}
+			if s, e := lex.Join(append(behind[:len(behind):len(behind)], subscript, word)); !strings.HasSuffix(s, sigil+"{ x") || e != api.OK {
+				t.Errorf("Join of %s, a sign %s and a subscript: %q %d", name, sigil, s, e)
+			}
+		}
+	}
+	// A subscript stands without a blank before it, whatever the sign is; and behind a token of no kind a term is expected.
+	for name, c := range map[string]struct {
+		l    []api.Token
+		want api.Errno
+	}{
+		"a word before `@{`":    {[]api.Token{of(api.KWord, "q"), of(api.KPat, ""), sign("@", 0), subscript}, api.ErrArg},
+		"no kind before a sign": {[]api.Token{of(99, ";"), sign("@", 0), word}, api.ErrArg},
+	} {
+		if s, e := lex.Join(c.l); s != "" || e != c.want {
+			t.Errorf("Join of %s: %q %d, not %d", name, s, e, c.want)
+		}
+	}
+}
+
 // P3.2: Same compares all but At.
 func TestSame(t *testing.T) {
 	x := api.Token{Kind: api.KSubst, At: 3, Text: "a", Repl: "b", More: "g", Open: 1}

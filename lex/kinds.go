@@ -56,8 +56,10 @@ func termBehind(t api.Token, before bool) bool {
 		return takesTerm(t.Text)
 	case api.KSign:
 		return termBehindSign(t, before)
+	case api.KNum, api.KVar, api.KStr, api.KInter, api.KWords, api.KPat, api.KSubst, api.KTrans:
+		return false
 	}
-	return false
+	return true
 }
 
 func termBehindSign(t api.Token, before bool) bool {
