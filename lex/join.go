@@ -54,7 +54,7 @@ func isTight(t, u api.Token, term bool) bool {
 	case isSignOf(t, "$") || isSignOf(t, "@"):
 		return true
 	case isSignOf(t, "%") || isSignOf(t, "&"):
-		return (u.Kind == api.KVar || u.Kind == api.KSign) && strings.HasPrefix(u.Text, "$")
+		return strings.HasPrefix(written(u), "$")
 	}
 	return false
 }

@@ -184,6 +184,54 @@ func TestJoinBehindSigil(t *testing.T) {
 	}
 }
 
+// P3.2: no blank stands behind a `%` or `&` where a term is expected and a `$` follows, in a token of any kind that is written as its Text; the length of the source tells.
+func TestJoinBeforeDollar(t *testing.T) {
+	padded := func(kind int, text string, length int) api.Token {
+		return api.Token{Kind: kind, Text: text + strings.Repeat(" ", length-len(text))}
+	}
+	for _, mark := range []string{"%", "&"} {
+		for name, c := range map[string]struct {
+			before  []api.Token
+			kind    int
+			text    string
+			written int // how many bytes are written beside the Text of the last token
+			tight   bool
+		}{
+			"a word":                       {nil, api.KWord, "$a", 0, true},
+			"a number":                     {nil, api.KNum, "$a", 0, true},
+			"a variable":                   {nil, api.KVar, "$a", 0, true},
+			"a sign":                       {nil, api.KSign, "$$a", 0, true},
+			"no kind below":                {nil, -1, "$a", 0, true},
+			"no kind above":                {nil, api.KTrans + 1, "$a", 0, true},
+			"a word behind `;`":            {[]api.Token{sign(";", 0)}, api.KWord, "$a", 2, true},
+			"a word without `$`":           {nil, api.KWord, "a", 0, false},
+			"a word with `$` in it":        {nil, api.KWord, "a $a", 0, false},
+			"`@`":                          {nil, api.KVar, "@a", 0, false},
+			"a text":                       {nil, api.KStr, "$a", 2, false},
+			"a text with interpolation":    {nil, api.KInter, "$a", 2, false},
+			"a pattern":                    {nil, api.KPat, "$a", 3, false},
+			"a word behind a number":       {[]api.Token{{Kind: api.KNum, Text: "1"}}, api.KWord, "$a", 2, false},
+			"a word behind a word":         {[]api.Token{{Kind: api.KWord, Text: "a"}}, api.KWord, "$a", 2, false},
+			"a number behind `)`":          {[]api.Token{sign(")", 0)}, api.KNum, "$a", 2, false},
+			"a variable behind a variable": {[]api.Token{{Kind: api.KVar, Text: "$x"}}, api.KVar, "$a", 3, false},
+		} {
+			longest := api.MaxSource - 1 - c.written
+			if !c.tight {
+				longest--
+			}
+			for more, large := range []bool{false, true} {
+				s, e := lex.Join(slices.Concat(c.before, []api.Token{sign(mark, 0), padded(c.kind, c.text, longest+more)}))
+				if (e == api.ErrLarge) != large || e != api.OK && s != "" {
+					t.Errorf("Join of a sign %s before %s, of %d bytes too many: %d bytes, %d", mark, name, more, len(s), e)
+				}
+			}
+		}
+		if s, e := lex.Join([]api.Token{sign(mark, 0), {Kind: api.KWord, Text: "$a"}}); s != "" || e != api.ErrArg {
+			t.Errorf("Join of a sign %s before a word $a: %q %d", mark, s, e)
+		}
+	}
+}
+
 // P3.2: Same compares all but At.
 func TestSame(t *testing.T) {
 	x := api.Token{Kind: api.KSubst, At: 3, Text: "a", Repl: "b", More: "g", Open: 1}
