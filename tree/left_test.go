@@ -18,8 +18,9 @@ var places = []struct {
 	{"$x[0]", true, true, true}, {"$x{a}", true, true, true}, {"$x->[0]", true, true, true}, {"$x->{a}", true, true, true}, {"$$x[0]", true, true, true}, {"f()->[0]", true, true, true}, {"$x[0]{a}", true, true, true},
 	{"@x", true, false, true}, {"%x", true, false, true}, {"@_", true, false, true},
 	{"@x[0]", true, false, true}, {"@x{'a'}", true, false, true}, {"@$x[0]", true, false, true}, {"@{$x}{'a'}", true, false, true},
-	{"$$x", true, true, false}, {"${f()}", true, true, false}, {"@$x", true, true, false}, {"%$x", true, true, false},
-	{"my $x", true, true, false}, {"my @x", true, true, false}, {"my ($x)", true, true, false}, {"our %x", true, true, false}, {"our ($x, @y)", true, true, false},
+	{"$$x", true, true, false}, {"${f()}", true, true, false}, {"${$$x}", true, true, false}, {"@$x", true, false, false}, {"%$x", true, false, false}, {"@{$x}", true, false, false}, {"%{f()}", true, false, false}, {"@{$$x}", true, false, false},
+	{"my $x", true, true, false}, {"my @x", true, false, false}, {"my %x", true, false, false}, {"my ($x)", true, false, false}, {"my (@x)", true, false, false}, {"our $x", true, true, false}, {"our @x", true, false, false}, {"our %x", true, false, false}, {"our ($x)", true, false, false}, {"our ($x, @y)", true, false, false}, {"(my $x)", true, true, false}, {"(my ($x))", true, false, false},
+	{"(local $x)", true, true, false}, {"(local $x[0])", true, true, false}, {"(local $x->{a})", true, true, false}, {"(local @x)", true, false, false}, {"(local %x)", true, false, false}, {"(local @x[0])", true, false, false}, {"(local @x{'a'})", true, false, false}, {"(local ($x, $y))", true, false, false}, {"(local ())", true, false, false},
 	{"()", true, false, true}, {"($x, $y)", true, false, true}, {"($x, @y, %z)", true, false, true}, {"($x[0], $y{a}, @z[1])", true, false, true}, {"($x,)", true, false, true}, {"(($x, $y), $z)", true, false, true}, {"((), $z)", true, false, true},
 	{"($x, $$y)", true, false, false}, {"($x, my $y)", true, false, false}, {"(my ($x, $y), @$z)", true, false, false}, {"($x, undef(), $y)", true, false, false}, {"(undef(),)", true, false, false}, {"(($x, undef()), $y)", true, false, false}, {"($x, local $y)", true, false, false},
 	{"($x, undef($y))", false, false, false}, {"($x, 1)", false, false, false}, {"($x, f())", false, false, false}, {"($x, ($y, 1))", false, false, false}, {"($x, $y = 1)", false, false, false}, {"(1, 2)", false, false, false},
@@ -35,6 +36,10 @@ func TestLeftSides(t *testing.T) {
 			t.Fatalf("%s: %d %d", c.s, n, e)
 		}
 		told, left := tell(x), tell(x)
+		if c.s[0] == '(' && x.Op == api.NMy {
+			// Parentheses directly before `=` make a list also of one element.
+			left = "(List " + told + ")"
+		}
 		right := func(is bool, s string, at int) string {
 			if is {
 				return s

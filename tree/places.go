@@ -22,12 +22,13 @@ func isPlace(x api.Node) bool {
 // canAssign reports whether a node may stand left of `=`.
 func canAssign(x api.Node) bool {
 	switch x.Op {
-	case api.NArray, api.NHash, api.NSlice, api.NKeys:
+	case api.NArray, api.NHash, api.NSlice, api.NKeys, api.NDeref, api.NMy:
+		// There is no NDeref of `&`: what it refers to is called.
 		return true
 	case api.NList:
 		return all(x.L, func(y api.Node) bool { return canAssign(y) || passesOver(y) })
 	}
-	return canUpdate(x)
+	return isPlace(x)
 }
 
 // passesOver reports whether a node on the left side passes over a value.
@@ -35,14 +36,12 @@ func passesOver(x api.Node) bool {
 	return x.Op == api.NFunc && x.S == "undef" && len(x.L) == 0
 }
 
-// canUpdate reports whether a node may stand left of `+=` and its like, and before or behind `++` and `--`.
+// canUpdate reports whether a node may stand left of `+=` and its like, and before or behind `++` and `--`: whether it is one scalar that can be assigned, also where it is declared there.
 func canUpdate(x api.Node) bool {
-	switch x.Op {
-	case api.NScalar, api.NIndex, api.NKey, api.NDeref, api.NMy:
-		// There is no NDeref of `&`: what it refers to is called.
-		return true
+	if x.Op == api.NMy && x.N == 0 {
+		return isPlace(x.L[0])
 	}
-	return false
+	return isPlace(x)
 }
 
 // canLocal reports whether a node may stand behind `local`.

@@ -163,6 +163,17 @@ func (m maker) declaration(depth int) api.Node {
 	return n
 }
 
+// updated makes one scalar that can be assigned, and is perhaps declared there.
+func (m maker) updated(depth int) api.Node {
+	switch m.r.Intn(6) {
+	case 0:
+		return nd(api.NMy, one(m, "my", "our"), nd(api.NScalar, m.own()))
+	case 1:
+		return nd(api.NMy, "local", one(m, nd(api.NScalar, m.scalar()), m.element(depth)))
+	}
+	return m.place(depth)
+}
+
 func (m maker) local(depth int) api.Node {
 	switch m.r.Intn(4) {
 	case 0:
@@ -311,9 +322,9 @@ func (m maker) expr(depth int) api.Node {
 	case 17:
 		return nd(api.NAssign, "", m.left(depth-1), x())
 	case 18:
-		return nd(api.NUpdate, one(m, updates...), one(m, m.place(depth-1), m.declaration(depth-1)), x())
+		return nd(api.NUpdate, one(m, updates...), m.updated(depth-1), x())
 	case 19:
-		return nd(api.NInc, one(m, "++x", "x++", "--x", "x--"), one(m, m.place(depth-1), m.declaration(depth-1)))
+		return nd(api.NInc, one(m, "++x", "x++", "--x", "x--"), m.updated(depth-1))
 	case 20, 21:
 		return m.matching(depth)
 	case 22:

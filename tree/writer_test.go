@@ -46,7 +46,7 @@ func (w writer) statement(n api.Node) string {
 	switch n.Op {
 	case api.NExpr:
 		s := w.expr(part(n, 0))
-		if s[0] == '{' || w.r.Intn(3) == 0 {
+		if strings.HasPrefix(s, "{") || w.r.Intn(3) == 0 {
 			s = "(" + s + ")"
 		}
 		return s + ";"
